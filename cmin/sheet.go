@@ -108,7 +108,7 @@ func (s sheet) full() []step {
 	moves := make([][]move, len(s))
 	moves[last] = make([]move, s.states(last))
 	for i := last - 1; i >= 0; i-- {
-		moves[i] = s.moves(i, moves[i+1])
+		moves[i] = s.bestMoves(i, moves[i+1])
 	}
 	first := move{size: math.MaxInt}
 	for option, c := range s[0] {
@@ -136,9 +136,9 @@ func (s sheet) states(i int) int {
 	return (before + 1) * len(s[i])
 }
 
-// moves returns the best moves from all states at the token with the index i,
+// bestMoves returns the best moves from all states at the token with the index i,
 // given those at the next one.
-func (s sheet) moves(i int, after []move) []move {
+func (s sheet) bestMoves(i int, after []move) []move {
 	n := len(s[i])
 	out := make([]move, s.states(i))
 	for option := range n {
@@ -147,14 +147,14 @@ func (s sheet) moves(i int, after []move) []move {
 			joins[next] = s.reads(i, option, next)
 		}
 		for at := option; at < len(out); at += n {
-			out[at] = s.move(i, at/n-1, option, joins, after)
+			out[at] = s.bestMove(i, at/n-1, option, joins, after)
 		}
 	}
 	return out
 }
 
-// move returns the best move from one state.
-func (s sheet) move(i, before, option int, joins []bool, after []move) move {
+// bestMove returns the best move from one state.
+func (s sheet) bestMove(i, before, option int, joins []bool, after []move) move {
 	n := len(s[i+1])
 	best := move{size: math.MaxInt}
 	for next, c := range s[i+1] {
