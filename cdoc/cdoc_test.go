@@ -63,6 +63,8 @@ func TestP2201Doc(t *testing.T) {
 		{"'a\nb", cat(cat(group(word("'a", 0), hard, word("b", 3))))},
 		{"a{color:blue/**/x}", cat(cat(group(word("a", 0)), blank, word("{", 1),
 			nest(hard, cat(group(word("color", 2), word(":", 7), blank, word("#00f", 8), gap, word("x", 16)))), hard, word("}", 17)))},
+		{"a{fill:red f()blue}", cat(cat(group(word("a", 0)), blank, word("{", 1),
+			nest(hard, cat(group(word("fill", 2), word(":", 6), blank, word("#f00", 7), space, word("f(", 11), word(")", 13), word("#00f", 14)))), hard, word("}", 18)))},
 		{`'a"'`, cat(cat(group(word(`"a\""`, 0))))},
 		{"</**/!/**/--x", cat(cat(group(word("<", 0), word("!", 5), gap, word("--x", 10))))},
 		{"a</**/!/**/--x", cat(cat(group(word("a", 0), word("<", 1), word("!", 6), gap, word("--x", 11))))},

@@ -105,6 +105,7 @@ func TestP1502Numbers(t *testing.T) {
 	check(t, "1 007 -5", whole("1"), space, whole("7"), space, whole("-5"))
 	check(t, "+5+.5", num(api.CNumber, "5", "", true, true), num(api.CNumber, ".5", "", false, true))
 	check(t, "1.5.5", part("1.5"), part(".5"))
+	check(t, "9.9e+99-0", part("9.9e99"), num(api.CNumber, "-0", "", true, false))
 	check(t, "1..5", whole("1"), delim("."), part(".5"))
 	check(t, "1.", whole("1"), delim("."))
 	check(t, ".5.a", part(".5"), delim("."), id("a"))

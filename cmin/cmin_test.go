@@ -127,6 +127,11 @@ func TestP2002Wrong(t *testing.T) {
 			t.Errorf("Pieces of %v: %v", l, got)
 		}
 	}
+	// A colour at the beginning, whose spelling decides what must follow it.
+	red := api.CTok{Kind: api.CColour, Colour: [4]int{255, 0, 0, 255}}
+	if got := text(cmin.Pieces([]api.CTok{red, {Kind: api.CLeft}})); got != "#f00(" {
+		t.Errorf("Pieces of a colour and a bracket: %q", got)
+	}
 	// Any tokens: what can't be adjacent is kept apart.
 	if got := text(cmin.Pieces([]api.CTok{a, a, {Kind: api.CBadStr, Text: "'"}, a})); got != "a/**/a'/**/a" {
 		t.Errorf("Pieces of any tokens: %q", got)

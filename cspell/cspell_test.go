@@ -174,7 +174,7 @@ func TestP1602RightWrong(t *testing.T) {
 		{Kind: api.CNumber, Num: read("-1"), Flag: true, Sign: true}, {Kind: api.CNumber, Num: read("1.5"), Flag: true},
 		{Kind: api.CNumber, Num: api.Num{Digits: "10", Exp: "0"}, Flag: true}, {Kind: api.CNumber, Num: read("1e20001"), Flag: true},
 		{Kind: api.CPercent, Num: read("-0"), Sign: true}, {Kind: api.CPercent, Num: one, Flag: true, Unit: "%"},
-		num(api.CDim, "1", "", true, false), {Kind: api.CDim, Num: one, Flag: true, Unit: "a\x00"}, {Kind: api.CDim, Num: one, Flag: true, Unit: "a", Text: "b"},
+		num(api.CDim, "1", "", true, false), num(api.CDim, "-1", "a", true, true), num(api.CDim, "1.5", "a", true, false), {Kind: api.CDim, Num: one, Flag: true, Unit: "a\x00"}, {Kind: api.CDim, Num: one, Flag: true, Unit: "a", Text: "b"},
 	}
 	for _, w := range wrongs {
 		if cspell.Right(w) {

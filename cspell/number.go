@@ -37,14 +37,8 @@ func wholeText(n api.Num) string {
 	if n.Digits == "" {
 		return "0"
 	}
-	return scaled(n, api.MaxBytes)
-}
-
-// scaled returns the digits of a number and its zeros, or an empty string if
-// these are not from 0 to most.
-func scaled(n api.Num, most int) string {
 	zeros, ok := decimal.Int(n.Exp)
-	if !ok || zeros < 0 || zeros > most {
+	if !ok || zeros < 0 || zeros > api.MaxBytes {
 		return ""
 	}
 	return n.Digits + strings.Repeat("0", zeros)
@@ -66,8 +60,7 @@ func shortText(n api.Num) string {
 			short = s
 		}
 	}
-	if s := scaled(n, api.MaxZeros); s != "" && len(s)+2 < len(short) {
-		short = s + ".0"
-	}
+	// The digits, zeros and .0 are never shorter than the digits and an
+	// exponent, so they are never written.
 	return short
 }

@@ -66,6 +66,8 @@ func TestP2601Faults(t *testing.T) {
 	}{
 		{long, api.JSON, 60, api.ErrLong, api.MaxBytes},
 		{long, api.CSS, 60, api.ErrLong, api.MaxBytes},
+		{long[:api.MaxBytes], api.JSON, 60, api.ErrSyntax, 1},
+		{strings.Repeat("a", api.MaxBytes), api.CSS, 60, api.OK, 0},
 		{"", api.JSON, 60, api.ErrSyntax, 0},
 		{"[1,]", api.JSON, 60, api.ErrSyntax, 3},
 		{"\"\xff\"", api.JSON, 60, api.ErrUtf, 1},

@@ -47,7 +47,7 @@ func TestP601Tokens(t *testing.T) {
 func TestP601SingleTokens(t *testing.T) {
 	cases := map[string]int{
 		"0": api.JNumber, "-0": api.JNumber, "10": api.JNumber, "1.5": api.JNumber, "-1.50e+07": api.JNumber, "0E0": api.JNumber,
-		"9e-1": api.JNumber, "0.0": api.JNumber, `"a b"`: api.JText, `"\"\\\/\b\f\n\r\t"`: api.JText, `"\u00aFé€😀"`: api.JText,
+		"9e-1": api.JNumber, "0.0": api.JNumber, `"a b"`: api.JText, `"\"\\\/\b\f\n\r\t"`: api.JText, `"\u00aFé€😀"`: api.JText, `"\u09af\uAF90"`: api.JText,
 		"\"\x7f\"": api.JText, "\"\ufffd\"": api.JText, `"\\"`: api.JText, "true": api.JTrue, "false": api.JFalse, "null": api.JNull,
 	}
 	for s, kind := range cases {
@@ -88,6 +88,12 @@ func TestP602Faults(t *testing.T) {
 		{"1-1", api.ErrSyntax, 0},
 		{"1_", api.ErrSyntax, 0},
 		{"1Z", api.ErrSyntax, 0},
+		{"1A", api.ErrSyntax, 0},
+		{"1a", api.ErrSyntax, 0},
+		{"1z", api.ErrSyntax, 0},
+		{"1E", api.ErrSyntax, 0},
+		{"1`", api.ErrSyntax, 1}, // it may follow a number, but begins no token
+		{"1@", api.ErrSyntax, 1},
 		{"truex", api.ErrSyntax, 0},
 		{"true1", api.ErrSyntax, 0},
 		{"tru", api.ErrSyntax, 0},

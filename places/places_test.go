@@ -1,6 +1,7 @@
 package places_test
 
 import (
+	"slices"
 	"testing"
 
 	"abridger/lines"
@@ -14,6 +15,20 @@ func TestNextEnds(t *testing.T) {
 	end := places.Place{Off: 1, Line: 0, Col: 1}
 	if p := places.Next([]byte("a"), end); p != end {
 		t.Errorf("Next at the end = %v", p)
+	}
+}
+
+func TestAll(t *testing.T) {
+	at := func(off, line, col int) places.Place { return places.Place{Off: off, Line: line, Col: col} }
+	want := []places.Place{
+		at(0, 0, 0), at(1, 0, 1), at(2, 0, 1), at(3, 0, 2), at(4, 1, 0), at(5, 2, 0), at(6, 3, 0),
+		at(7, 3, 2), at(8, 3, 2), at(9, 3, 2), at(10, 3, 2), at(11, 3, 3), at(12, 4, 0),
+	}
+	if got := places.All([]byte("é\r\n\r\n\U0001f600\xff\r")); !slices.Equal(got[:4], want[:4]) || got[5] != at(5, 1, 1) || got[6] != at(6, 2, 0) {
+		t.Errorf("All: %v", got)
+	}
+	if got := places.All([]byte("é\xff\n\r\r\U0001f600\xff\r")); !slices.Equal(got, want) {
+		t.Errorf("All: %v", got)
 	}
 }
 

@@ -24,6 +24,7 @@ func TestP2501Mappings(t *testing.T) {
 		{"AAAA", []api.Segment{seg(0, 0, 0, 0)}},
 		{"KAGO,CADP", []api.Segment{seg(0, 5, 3, 7), seg(0, 6, 2, 0)}},
 		{"KACC;;;KACD,gBAAA", []api.Segment{seg(0, 5, 1, 1), seg(3, 5, 2, 0), seg(3, 21, 2, 0)}},
+		{"ggggggCAggggggCggggggC", []api.Segment{seg(0, 1<<30, 1<<30, 1<<30)}},
 		{strings.Repeat(";", 100000) + "AAAA", []api.Segment{seg(100000, 0, 0, 0)}},
 	}
 	for _, c := range cases {
@@ -33,7 +34,7 @@ func TestP2501Mappings(t *testing.T) {
 	}
 	wrongs := []string{
 		";", "AAAA;", ",", "AAAA,", ",AAAA", "A", "AAA", "AAAAA", "AAAAAA", "ACAA", "AAAA ", "AA!A", "AAAg", "AAAgA", "AAAB",
-		"DAAA", "AADA", "AAAD", "AAAA,AAAA", "CAAA,DAAA", "AAAA,,CAAA", "AAAC,CAAF", "ggggggggCAAA", "AAggggggggCA",
+		"DAAA", "AADA", "AAAD", "AAAA,AAAA", "CAAA,DAAA", "AAAA,,CAAA", "AAAC,CAAF", "ggggggggCAAA", "igggggCAAA", "AAAigggggC", "AAggggggggCA",
 		"CAAA,gggggggCAAA", strings.Repeat(";", 100001) + "AAAA", "aaaa;bbbb", "é",
 	}
 	for _, s := range wrongs {
@@ -96,7 +97,7 @@ func TestP2501Read(t *testing.T) {
 		`{"version":3,"sources":{"a":"b"},"mappings":"AAAA"}`, `{"version":3,"sources":["a"],"sources":["a"],"mappings":"AAAA"}`,
 		`{"version":3,"sources":["a"],"mappings":";"}`, `{"version":3,"sources":["a"],"mappings":["AAAA"]}`,
 		`{"version":3,"sources":["a"],"mappings":"AAAA","mappings":"AAAA"}`, `{"version":3,"sources":["a"],"mappings":1}`,
-		`{"version":3,"sources":["a"],"mappings":"\ud800"}`, `[{"version":3,"sources":["a"],"mappings":"AAAA"}]`,
+		`["version",3,"sources",["a"],"mappings","AAAA"]`, `{"version":3,"sources":["a"],"mappings":"\ud800"}`, `[{"version":3,"sources":["a"],"mappings":"AAAA"}]`,
 	}
 	for _, s := range wrongs {
 		if name, got, ok := sread.Read([]byte(s)); name != "" || len(got) != 0 || ok {

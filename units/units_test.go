@@ -25,7 +25,7 @@ func TestAppendAndFirst(t *testing.T) {
 }
 
 func TestFirstOfSurrogates(t *testing.T) {
-	for _, l := range [][]int{{0xd800}, {0xdc00}, {0xd800, 'a'}, {0xdc00, 0xd800}, {0xd800, 0xd800}, {0xdbff, 0xe000}} {
+	for _, l := range [][]int{{0xd800}, {0xdc00}, {0xd800, 'a'}, {0xdc00, 0xd800}, {0xd800, 0xd800}, {0xdbff, 0xe000}, {0xdc00, 0xdc00}, {0xd7ff, 0xdc00}} {
 		if r, n := units.First(l); r != l[0] || n != 1 {
 			t.Errorf("First of %x = %x, %d", l, r, n)
 		}
