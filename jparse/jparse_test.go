@@ -25,21 +25,21 @@ func TestP701Values(t *testing.T) {
 		s    string
 		want api.Value
 	}{
-		{" true ", api.Value{Kind: api.VTrue, From: 1, To: 1}},
+		{" true ", api.Value{Kind: api.VTrue, From: 1}},
 		{"false", api.Value{Kind: api.VFalse}},
-		{"\nnull", api.Value{Kind: api.VNull, From: 1, To: 1}},
+		{"\nnull", api.Value{Kind: api.VNull, From: 1}},
 		{"-1.50", api.Value{Kind: api.VNumber, Num: api.Num{Neg: true, Digits: "15", Exp: "-1"}}},
-		{` "aé"`, api.Value{Kind: api.VText, Text: []int{'a', 0xe9}, From: 1, To: 1}},
+		{` "aé"`, api.Value{Kind: api.VText, Text: []int{'a', 0xe9}, From: 1}},
 		{"[ ]", api.Value{Kind: api.VArray, From: 0, To: 2}},
 		{" {} ", api.Value{Kind: api.VObject, From: 1, To: 2}},
 		{"[1, true]", api.Value{Kind: api.VArray, From: 0, To: 8, Marks: []int{2}, Items: []api.Value{
-			{Kind: api.VNumber, Num: one, From: 1, To: 1},
-			{Kind: api.VTrue, From: 4, To: 4},
+			{Kind: api.VNumber, Num: one, From: 1},
+			{Kind: api.VTrue, From: 4},
 		}}},
 		{`{"a":1,"a" : [] }`, api.Value{Kind: api.VObject, From: 0, To: 16, Marks: []int{4, 6, 11}, Items: []api.Value{
-			{Kind: api.VText, Text: []int{'a'}, From: 1, To: 1},
-			{Kind: api.VNumber, Num: one, From: 5, To: 5},
-			{Kind: api.VText, Text: []int{'a'}, From: 7, To: 7},
+			{Kind: api.VText, Text: []int{'a'}, From: 1},
+			{Kind: api.VNumber, Num: one, From: 5},
+			{Kind: api.VText, Text: []int{'a'}, From: 7},
 			{Kind: api.VArray, From: 13, To: 14},
 		}}},
 	}
@@ -47,6 +47,30 @@ func TestP701Values(t *testing.T) {
 		if got := parse(t, c.s); !reflect.DeepEqual(got, c.want) {
 			t.Errorf("Parse(%q) = %+v", c.s, got)
 		}
+	}
+}
+
+// singles calls f with all texts, numbers and words in v.
+func singles(v api.Value, f func(api.Value)) {
+	if v.Kind != api.VObject && v.Kind != api.VArray {
+		f(v)
+	}
+	for _, item := range v.Items {
+		singles(item, f)
+	}
+}
+
+func TestP701OnlyListsHaveTo(t *testing.T) {
+	texts := []string{
+		" 1 ", "  -0.5e3", ` "a"`, ` ""`, "\n true", " false", "  null", ` [ 1, "a", true, false, null ]`,
+		` { "a" : "b", "c" : 2, "d" : [ null, { "" : false } ] }`,
+	}
+	for _, s := range texts {
+		singles(parse(t, s), func(v api.Value) {
+			if v.From == 0 || v.To != 0 || len(v.Marks) > 0 {
+				t.Errorf("Parse(%q) contains %+v", s, v)
+			}
+		})
 	}
 }
 
