@@ -52,7 +52,11 @@ func TestP1201Doc(t *testing.T) {
 }
 
 func TestP1201Wrong(t *testing.T) {
-	for _, v := range []api.Value{{}, {Kind: api.VNull, From: -1}, {Kind: api.VArray, Items: []api.Value{{}}}} {
+	wrongs := []api.Value{
+		{}, {Kind: api.VNull, From: -1}, {Kind: api.VArray, Items: []api.Value{{}}},
+		{Kind: api.VTrue, To: 1}, {Kind: api.VText, From: 2, To: 2}, {Kind: api.VArray, To: 9, Items: []api.Value{{Kind: api.VNumber, To: 1}}},
+	}
+	for _, v := range wrongs {
 		if got := jdoc.Doc(v); !reflect.DeepEqual(got, api.Doc{Kind: api.DCat}) {
 			t.Errorf("Doc of %v: %v", v, got)
 		}

@@ -65,7 +65,7 @@ func TestP901Right(t *testing.T) {
 	key := api.Value{Kind: api.VText, Text: []int{'a'}}
 	null := api.Value{Kind: api.VNull}
 	rights := []api.Value{
-		null, key, {Kind: api.VTrue}, {Kind: api.VFalse, From: 9, To: 9}, {Kind: api.VText}, {Kind: api.VNumber},
+		null, key, {Kind: api.VTrue}, {Kind: api.VFalse, From: 9}, {Kind: api.VText}, {Kind: api.VNumber},
 		{Kind: api.VNumber, Num: api.Num{Neg: true, Digits: "15", Exp: "-99"}}, {Kind: api.VArray}, {Kind: api.VObject},
 		{Kind: api.VArray, To: 7, Items: []api.Value{null, null}, Marks: []int{3}},
 		{Kind: api.VObject, Items: []api.Value{key, null}, Marks: []int{0}},
@@ -98,6 +98,59 @@ func TestP901Right(t *testing.T) {
 	for _, v := range wrongs {
 		if jmin.Right(v) || len(jmin.Pieces(v)) != 0 {
 			t.Errorf("Right(%+v) is true", v)
+		}
+	}
+}
+
+func TestP901OnlyListsHaveTo(t *testing.T) {
+	key := api.Value{Kind: api.VText, Text: []int{'a'}}
+	singles := []api.Value{
+		key, {Kind: api.VText}, {Kind: api.VNumber}, {Kind: api.VNumber, Num: api.Num{Digits: "1", Exp: "0"}},
+		{Kind: api.VTrue}, {Kind: api.VFalse}, {Kind: api.VNull},
+	}
+	for _, v := range singles {
+		for _, to := range []int{0, -1, 1, 7, 1 << 40} {
+			v.From, v.To = 7, to
+			wholes := []api.Value{
+				v,
+				{Kind: api.VArray, To: 9, Items: []api.Value{v}},
+				{Kind: api.VArray, To: 9, Items: []api.Value{key, v}, Marks: []int{5}},
+				{Kind: api.VObject, To: 9, Items: []api.Value{key, v}, Marks: []int{5}},
+				{Kind: api.VArray, Items: []api.Value{{Kind: api.VArray, Items: []api.Value{v}}}},
+			}
+			if v.Kind == api.VText {
+				wholes = append(wholes, api.Value{Kind: api.VObject, Items: []api.Value{v, key}, Marks: []int{9}})
+			}
+			for _, whole := range wholes {
+				if jmin.Right(whole) != (to == 0) || (len(jmin.Pieces(whole)) > 0) != (to == 0) {
+					t.Errorf("Right(%+v) is %v", whole, jmin.Right(whole))
+				}
+			}
+		}
+	}
+	for _, kind := range []int{api.VObject, api.VArray} {
+		v := api.Value{Kind: kind, From: 3, To: 7}
+		if want := []int{3, 7}; !jmin.Right(v) || !slices.Equal(froms(jmin.Pieces(v)), want) {
+			t.Errorf("Pieces(%+v): %v", v, jmin.Pieces(v))
+		}
+	}
+}
+
+func froms(l []api.Piece) []int {
+	var out []int
+	for _, p := range l {
+		out = append(out, p.From)
+	}
+	return out
+}
+
+func TestP902AllThatParseReturnsIsRight(t *testing.T) {
+	texts := []string{
+		" 1", ` "a"`, " true", " false", " null", " []", " {}", ` [ 1, "a", true, [ ], null ]`, ` {"a" : false, "" : { "b" : [ 2 ] } }`,
+	}
+	for _, s := range texts {
+		if !jmin.Right(parse(t, s)) {
+			t.Errorf("Right of %s is false", s)
 		}
 	}
 }
