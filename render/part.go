@@ -1,19 +1,16 @@
 package render
 
-import (
-	"abridger/api"
-	"abridger/doc"
-)
+import "abridger/api"
 
 // part is a document with its widths, which do not depend on what is around
 // it. They are measured once, since a layout asks for them over and over.
 type part struct {
 	doc    api.Doc
 	kids   []part
-	flat   int  // without line breaks
-	hard   bool // it contains a DHard
-	lead   int  // in the mode broken: up to the first possible line break
-	breaks bool // in the mode broken: it contains a possible line break
+	flat   stretch // its text without line breaks
+	hard   bool    // it contains a DHard
+	lead   int     // in the mode broken: up to the first possible line break, text by text
+	breaks bool    // in the mode broken: it contains a possible line break
 }
 
 // measure returns the part of a valid document.
@@ -21,10 +18,10 @@ func measure(d api.Doc) part {
 	p := part{doc: d}
 	switch d.Kind {
 	case api.DText:
-		p.flat = doc.Wide(d.Text)
-		p.lead = p.flat
+		p.flat = stretchOf(d.Text)
+		p.lead = p.flat.wide
 	case api.DSpace:
-		p.flat = 1
+		p.flat = stretchOf(" ")
 		p.breaks = true
 	case api.DSoft:
 		p.breaks = true
@@ -41,7 +38,7 @@ func measure(d api.Doc) part {
 // add puts a kid after those that p has.
 func (p *part) add(kid part) {
 	p.kids = append(p.kids, kid)
-	p.flat += kid.flat
+	p.flat = p.flat.then(kid.flat)
 	p.hard = p.hard || kid.hard
 	if !p.breaks {
 		p.lead += kid.lead
